@@ -176,6 +176,11 @@ func TestImports(t *testing.T) {
 			}
 		}
 	}
+	for _, path := range importsOf(t, "probe") {
+		if !slices.Contains(library, path) {
+			t.Errorf("package probe imports %s", path)
+		}
+	}
 }
 
 func importsOf(t *testing.T, folder string) []string {

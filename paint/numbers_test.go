@@ -8,6 +8,7 @@ import (
 
 	"bellpull/api"
 	"bellpull/paint"
+	"bellpull/probe"
 )
 
 func checkSum(t *testing.T, colors []int) {
@@ -29,7 +30,7 @@ func checkProgression(t *testing.T, colors []int) {
 // Sum and Progression, A7 and P3: what is found is the least that is there.
 func TestPatternsOfAllSmallColorings(t *testing.T) {
 	for n := 1; n <= 9; n++ {
-		for colors := range everyColoring(n, 3) {
+		for colors := range probe.Lists(n, 0, 2) {
 			checkSum(t, colors)
 			checkProgression(t, colors)
 		}
@@ -103,7 +104,7 @@ func TestNumbersAmongAllColorings(t *testing.T) {
 }
 
 func leastOfAll(n, r int, pattern func([]int) bool) []int {
-	for colors := range everyColoring(n, r) {
+	for colors := range probe.Lists(n, 0, r-1) {
 		if !pattern(colors) {
 			return colors
 		}
@@ -172,7 +173,7 @@ func TestNumbersFewer(t *testing.T) {
 func TestSchurAndRamsey(t *testing.T) {
 	seen := 0
 	for n := 2; n <= api.MaxDots; n++ {
-		for colors := range everyColoring(n-1, 2) {
+		for colors := range probe.Lists(n-1, 0, 1) {
 			if _, e := paint.Sum(colors); e != api.ErrNone {
 				continue
 			}
@@ -238,7 +239,7 @@ func TestSumErrors(t *testing.T) {
 		refused(t, "Sum of too many", got, e, api.ErrForm)
 	}
 	for i := range api.MaxSum {
-		for _, color := range append(outside(0, api.MaxColors-1), 4) {
+		for _, color := range append(probe.Outside(0, api.MaxColors-1), 4) {
 			colors := make([]int, api.MaxSum)
 			colors[i] = color
 			got, e := paint.Sum(colors)
@@ -257,7 +258,7 @@ func TestProgressionErrors(t *testing.T) {
 		refused(t, "Progression in too many", got, e, api.ErrForm)
 	}
 	for i := range api.MaxSteps {
-		for _, color := range append(outside(0, api.MaxColors-1), 4) {
+		for _, color := range append(probe.Outside(0, api.MaxColors-1), 4) {
 			colors := make([]int, api.MaxSteps)
 			colors[i] = color
 			got, e := paint.Progression(colors, 4)
@@ -265,7 +266,7 @@ func TestProgressionErrors(t *testing.T) {
 		}
 	}
 	// A colouring that is malformed as well does not change that it is ErrArg.
-	for _, k := range append(outside(3, 4), 0, 1) {
+	for _, k := range append(probe.Outside(3, 4), 0, 1) {
 		for _, colors := range [][]int{nil, {0, 0, 0, 0, 0}, {0, 3}, make([]int, 21)} {
 			got, e := paint.Progression(colors, k)
 			refused(t, "Progression of k terms", got, e, api.ErrArg)
@@ -274,21 +275,21 @@ func TestProgressionErrors(t *testing.T) {
 }
 
 func TestSumlessAndSteplessErrors(t *testing.T) {
-	for _, n := range outside(1, api.MaxSum) {
+	for _, n := range probe.Outside(1, api.MaxSum) {
 		got, e := paint.Sumless(n, 3)
 		refused(t, "Sumless, n", got, e, api.ErrArg)
 	}
-	for _, r := range outside(1, api.MaxColors) {
+	for _, r := range probe.Outside(1, api.MaxColors) {
 		got, e := paint.Sumless(3, r)
 		refused(t, "Sumless, r", got, e, api.ErrArg)
 		got, e = paint.Stepless(3, r, 3)
 		refused(t, "Stepless, r", got, e, api.ErrArg)
 	}
-	for _, n := range outside(1, api.MaxSteps) {
+	for _, n := range probe.Outside(1, api.MaxSteps) {
 		got, e := paint.Stepless(n, 3, 4)
 		refused(t, "Stepless, n", got, e, api.ErrArg)
 	}
-	for _, k := range append(outside(3, 4), 0, 1) {
+	for _, k := range append(probe.Outside(3, 4), 0, 1) {
 		for _, n := range []int{1, 9, 20} {
 			got, e := paint.Stepless(n, 2, k)
 			refused(t, "Stepless, k", got, e, api.ErrArg)

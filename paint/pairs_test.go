@@ -8,6 +8,7 @@ import (
 
 	"bellpull/api"
 	"bellpull/paint"
+	"bellpull/probe"
 )
 
 func checkClique(t *testing.T, n int, colors []int) {
@@ -24,7 +25,7 @@ func checkClique(t *testing.T, n int, colors []int) {
 // Clique, A7 and P3: what is found is the least that is there.
 func TestCliqueOfAllSmallColorings(t *testing.T) {
 	for n := 1; n <= 5; n++ {
-		for colors := range everyColoring(n*(n-1)/2, 2) {
+		for colors := range probe.Lists(n*(n-1)/2, 0, 1) {
 			checkClique(t, n, colors)
 		}
 	}
@@ -71,15 +72,15 @@ func TestCliqueErrors(t *testing.T) {
 	bad := []int{0, 2, 0}
 	// A colouring that is malformed as well does not change that it is ErrArg.
 	for _, colors := range [][]int{nil, good, bad} {
-		for _, n := range outside(1, api.MaxDots) {
+		for _, n := range probe.Outside(1, api.MaxDots) {
 			got, e := paint.Clique(n, colors, 0, 3)
 			refused(t, "Clique, number of vertices", got, e, api.ErrArg)
 		}
-		for _, color := range append(outside(0, 1), 2, 3) {
+		for _, color := range append(probe.Outside(0, 1), 2, 3) {
 			got, e := paint.Clique(3, colors, color, 3)
 			refused(t, "Clique, colour", got, e, api.ErrArg)
 		}
-		for _, k := range outside(1, api.MaxClique) {
+		for _, k := range probe.Outside(1, api.MaxClique) {
 			got, e := paint.Clique(3, colors, 0, k)
 			refused(t, "Clique, k", got, e, api.ErrArg)
 		}
@@ -91,7 +92,7 @@ func TestCliqueErrors(t *testing.T) {
 		}
 	}
 	for i := range 28 {
-		for _, color := range append(outside(0, 1), 2) {
+		for _, color := range append(probe.Outside(0, 1), 2) {
 			colors := make([]int, 28)
 			colors[i] = color
 			got, e := paint.Clique(8, colors, 0, 1)
@@ -141,7 +142,7 @@ func TestAvoidAmongAllColorings(t *testing.T) {
 		for k := 2; k <= api.MaxClique; k++ {
 			for l := 2; l <= api.MaxClique; l++ {
 				var want []int
-				for colors := range everyColoring(n*(n-1)/2, 2) {
+				for colors := range probe.Lists(n*(n-1)/2, 0, 1) {
 					if leastClique(n, colors, 0, k) == nil && leastClique(n, colors, 1, l) == nil {
 						want = colors
 						break
@@ -201,11 +202,11 @@ func TestAvoidFewer(t *testing.T) {
 }
 
 func TestAvoidErrors(t *testing.T) {
-	for _, n := range outside(1, api.MaxDots) {
+	for _, n := range probe.Outside(1, api.MaxDots) {
 		got, e := paint.Avoid(n, 3, 3)
 		refused(t, "Avoid, number of vertices", got, e, api.ErrArg)
 	}
-	for _, k := range outside(2, api.MaxClique) {
+	for _, k := range probe.Outside(2, api.MaxClique) {
 		for _, n := range []int{1, 5, 6, 8} {
 			got, e := paint.Avoid(n, k, 3)
 			refused(t, "Avoid, k", got, e, api.ErrArg)
@@ -223,7 +224,7 @@ func TestCountEverywhere(t *testing.T) {
 		for k := 2; k <= api.MaxClique; k++ {
 			for l := 2; l <= api.MaxClique; l++ {
 				want := 0
-				for colors := range everyColoring(n*(n-1)/2, 2) {
+				for colors := range probe.Lists(n*(n-1)/2, 0, 1) {
 					if leastClique(n, colors, 0, k) == nil && leastClique(n, colors, 1, l) == nil {
 						want++
 					}
@@ -256,10 +257,10 @@ func TestCountErrors(t *testing.T) {
 			t.Errorf("Count(%d, %d, %d) = %d, %d, want ErrArg", n, k, l, got, e)
 		}
 	}
-	for _, n := range append(outside(1, 5), 7, 8) {
+	for _, n := range append(probe.Outside(1, 5), 7, 8) {
 		fail(n, 3, 3)
 	}
-	for _, k := range outside(2, api.MaxClique) {
+	for _, k := range probe.Outside(2, api.MaxClique) {
 		for n := 1; n <= 5; n++ {
 			fail(n, k, 3)
 			fail(n, 3, k)
@@ -269,7 +270,7 @@ func TestCountErrors(t *testing.T) {
 
 // A6: exchanging the colours exchanges the cliques.
 func TestCliqueExchanged(t *testing.T) {
-	for colors := range everyColoring(6, 2) {
+	for colors := range probe.Lists(6, 0, 1) {
 		other := slices.Clone(colors)
 		for i, c := range colors {
 			other[i] = 1 - c

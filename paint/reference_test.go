@@ -1,8 +1,6 @@
 package paint_test
 
 import (
-	"iter"
-	"math"
 	"math/bits"
 	"slices"
 	"testing"
@@ -12,27 +10,6 @@ import (
 
 // The references below follow the definitions of the chapter word by word, and
 // share no code with the package.
-
-// everyColoring yields all r^size colourings in lexicographic order.
-func everyColoring(size, r int) iter.Seq[[]int] {
-	return func(yield func([]int) bool) {
-		colors := make([]int, size)
-		for {
-			if !yield(slices.Clone(colors)) {
-				return
-			}
-			i := size - 1
-			for i >= 0 && colors[i] == r-1 {
-				colors[i] = 0
-				i--
-			}
-			if i < 0 {
-				return
-			}
-			colors[i]++
-		}
-	}
-}
 
 // pairColors tells the colour of each pair a < b that a colouring has one for.
 func pairColors(n int, colors []int) map[[2]int]int {
@@ -208,11 +185,6 @@ func refused(t *testing.T, call string, got []int, e, want api.Errno) {
 	if e != want || len(got) != 0 {
 		t.Errorf("%s = %v, %d, want the error %d", call, got, e, want)
 	}
-}
-
-// outside are numbers that are in no range from low to high.
-func outside(low, high int) []int {
-	return []int{low - 1, high + 1, -1000000, 1000000, math.MinInt, math.MinInt + 1, math.MaxInt - 1, math.MaxInt, math.MinInt32, math.MaxInt32}
 }
 
 func repeated(color, size int) []int { return slices.Repeat([]int{color}, size) }

@@ -6,6 +6,7 @@ import (
 	"testing"
 
 	"bellpull/paint"
+	"bellpull/probe"
 )
 
 // strange are numbers in, at the ends of, and far beyond all ranges.
@@ -70,33 +71,9 @@ func calls() map[string]func(colors []int) []int {
 // R5 and R6: arguments stay as they are, results are new memory, and the same
 // arguments have the same result, whatever their capacity.
 func TestArgumentsAndResults(t *testing.T) {
-	before := []int{0, 0, 1, 0, 0, 0}
 	for name, call := range calls() {
-		room := append(slices.Clone(before), 7, 7, 7, 7)
-		colors := room[:len(before)]
-		one := call(colors)
-		if len(one) == 0 {
-			t.Errorf("%s returns nothing", name)
-		}
-		if !slices.Equal(room, append(slices.Clone(before), 7, 7, 7, 7)) {
-			t.Errorf("%s changes its argument to %v", name, room)
-		}
-		want := slices.Clone(one)
-		for i := range one {
-			one[i] = -9
-		}
-		if !slices.Equal(colors, before) {
-			t.Errorf("%s returns a part of its argument", name)
-		}
-		two := call(slices.Clip(slices.Clone(before)))
-		if !slices.Equal(two, want) {
-			t.Errorf("%s = %v, then %v", name, want, two)
-		}
-		for i := range colors {
-			colors[i] = 2
-		}
-		if !slices.Equal(two, want) {
-			t.Errorf("%s keeps its argument", name)
+		if wrong := probe.Memory([]int{0, 0, 1, 0, 0, 0}, 7, call); wrong != "" {
+			t.Errorf("%s %s", name, wrong)
 		}
 	}
 }
