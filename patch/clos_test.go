@@ -28,7 +28,7 @@ func TestValidOfAllRoutings(t *testing.T) {
 	for inputs := 1; inputs <= 5; inputs++ {
 		for n, r := range shapes(inputs) {
 			for m := 1; m <= 3; m++ {
-				for perm := range perms(inputs) {
+				for perm := range probe.Perms(inputs) {
 					for routing := range probe.Lists(inputs, 0, m-1) {
 						if got := valid(t, n, r, m, perm, routing); got != isValid(n, perm, routing) {
 							t.Fatalf("Valid(%d, %d, %d, %v, %v) = %t", n, r, m, perm, routing, got)
@@ -85,7 +85,7 @@ func checkRoute(t *testing.T, n, r, m int, perm []int) {
 func TestRoutesOfAllPermutations(t *testing.T) {
 	for inputs := 1; inputs <= 8; inputs++ {
 		for n, r := range shapes(inputs) {
-			for perm := range perms(inputs) {
+			for perm := range probe.Perms(inputs) {
 				for m := max(1, n-1); m <= n+1; m++ {
 					checkRoute(t, n, r, m, perm)
 				}
@@ -98,7 +98,7 @@ func TestRoutesOfAllPermutations(t *testing.T) {
 func TestLeastRoutes(t *testing.T) {
 	for inputs := 1; inputs <= 6; inputs++ {
 		for n, r := range shapes(inputs) {
-			for perm := range perms(inputs) {
+			for perm := range probe.Perms(inputs) {
 				for m := n; m <= min(4, n+1); m++ {
 					if got, want := route(t, n, r, m, perm), leastRouting(n, m, perm); !slices.Equal(got, want) {
 						t.Fatalf("Route(%d, %d, %d, %v) = %v, want %v", n, r, m, perm, got, want)

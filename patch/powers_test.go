@@ -59,13 +59,13 @@ func TestApplyWithOneCrossedSwitch(t *testing.T) {
 			{0, 1}, {2, 3}, {4, 5}, {6, 7}},
 	}
 	for k := 1; k <= 3; k++ {
-		if got := apply(t, k, strings.Repeat("0", numbers(k))); !slices.Equal(got, identity(1<<k)) {
+		if got := apply(t, k, strings.Repeat("0", numbers(k))); !slices.Equal(got, probe.Identity(1<<k)) {
 			t.Errorf("Apply(%d, straight) = %v", k, got)
 		}
 		for at, two := range exchanged[k] {
 			places := make([]int, numbers(k))
 			places[at] = 1
-			want := identity(1 << k)
+			want := probe.Identity(1 << k)
 			want[two[0]], want[two[1]] = two[1], two[0]
 			if got := checkApply(t, k, settings(places)); !slices.Equal(got, want) {
 				t.Errorf("Apply(%d, %s) = %v, want %v", k, settings(places), got, want)
@@ -89,7 +89,7 @@ func TestApplyOfAllSettings(t *testing.T) {
 // F3, for all permutations.
 func TestSetOfAllPermutations(t *testing.T) {
 	for k := 1; k <= 3; k++ {
-		for perm := range perms(1 << k) {
+		for perm := range probe.Perms(1 << k) {
 			s, e := patch.Set(k, perm)
 			if e != api.OK || len(s) != numbers(k) || strings.Trim(s, "01") != "" {
 				t.Fatalf("Set(%d, %v) = %q, %d", k, perm, s, e)
@@ -105,7 +105,7 @@ func TestSetOfAllPermutations(t *testing.T) {
 func TestWays(t *testing.T) {
 	for k := 1; k <= 2; k++ {
 		total := 0
-		for perm := range perms(1 << k) {
+		for perm := range probe.Perms(1 << k) {
 			want := 0
 			for places := range probe.Lists(numbers(k), 0, 1) {
 				fits := true
@@ -143,7 +143,7 @@ func TestWaksman(t *testing.T) {
 func TestOmega(t *testing.T) {
 	for k := 1; k <= 3; k++ {
 		passed := 0
-		for perm := range perms(1 << k) {
+		for perm := range probe.Perms(1 << k) {
 			got, e := patch.Omega(k, perm)
 			if got != passes(k, perm) || e != api.OK {
 				t.Fatalf("Omega(%d, %v) = %t, %d", k, perm, got, e)
@@ -155,7 +155,7 @@ func TestOmega(t *testing.T) {
 		if passed != []int{1: 2, 2: 16, 3: 4096}[k] {
 			t.Errorf("the omega network for k %d passes %d permutations", k, passed)
 		}
-		if got, e := patch.Omega(k, identity(1<<k)); !got || e != api.OK {
+		if got, e := patch.Omega(k, probe.Identity(1<<k)); !got || e != api.OK {
 			t.Errorf("Omega(%d, identity) = %t, %d", k, got, e)
 		}
 	}

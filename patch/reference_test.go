@@ -16,32 +16,6 @@ import (
 // The references below follow the definitions of the chapter word by word, and
 // share no code with the package.
 
-// perms yields all permutations of size numbers in lexicographic order.
-func perms(size int) iter.Seq[[]int] {
-	var extend func(begin []int, yield func([]int) bool) bool
-	extend = func(begin []int, yield func([]int) bool) bool {
-		if len(begin) == size {
-			return yield(slices.Clone(begin))
-		}
-		for x := range size {
-			if !slices.Contains(begin, x) && !extend(append(begin, x), yield) {
-				return false
-			}
-		}
-		return true
-	}
-	return func(yield func([]int) bool) { extend(nil, yield) }
-}
-
-// identity is the permutation that connects each input with its own number.
-func identity(size int) []int {
-	perm := make([]int, size)
-	for i := range perm {
-		perm[i] = i
-	}
-	return perm
-}
-
 // shapes yields n and r of all Clos networks with a number of inputs.
 func shapes(inputs int) iter.Seq2[int, int] {
 	return func(yield func(n, r int) bool) {

@@ -81,7 +81,7 @@ func badNetworks() [][3]int {
 func TestNetworksRefused(t *testing.T) {
 	for _, b := range badNetworks() {
 		n, r, m := b[0], b[1], b[2]
-		for _, perm := range [][]int{nil, {0}, {0, 1, 2, 3}, {0, 0}, {-1}, identity(12), identity(14)} {
+		for _, perm := range [][]int{nil, {0}, {0, 1, 2, 3}, {0, 0}, {-1}, probe.Identity(12), probe.Identity(14)} {
 			refusedRoutes(t, n, r, m, perm, perm, api.ErrArg)
 			refusedRoutes(t, n, r, m, perm, nil, api.ErrArg)
 		}
@@ -94,34 +94,11 @@ func TestNetworksRefused(t *testing.T) {
 	}
 }
 
-// badPerms are slices that are no permutations of size numbers.
-func badPerms(size int) [][]int {
-	all := [][]int{identity(size + 1), identity(size)[1:], append(identity(size), 0), identity(5000)}
-	if size > 1 {
-		all = append(all, nil, []int{0}, slices.Repeat([]int{0}, size), slices.Repeat([]int{size - 1}, size))
-	}
-	for at := range size {
-		for _, x := range probe.Outside(0, size-1) {
-			perm := identity(size)
-			perm[at] = x
-			all = append(all, perm)
-		}
-		for other := range size {
-			if other != at {
-				perm := identity(size)
-				perm[at] = other
-				all = append(all, perm)
-			}
-		}
-	}
-	return all
-}
-
 // Permutations are refused before it is said that there is no routing.
 func TestPermutationsRefused(t *testing.T) {
 	for inputs := 1; inputs <= api.MaxWires; inputs++ {
 		for n, r := range shapes(inputs) {
-			for _, perm := range badPerms(inputs) {
+			for _, perm := range probe.BadPerms(inputs) {
 				for _, m := range []int{1, n, 12} {
 					refusedRoutes(t, n, r, m, perm, make([]int, inputs), api.ErrForm)
 					refusedRoutes(t, n, r, m, perm, nil, api.ErrForm)
@@ -130,7 +107,7 @@ func TestPermutationsRefused(t *testing.T) {
 		}
 	}
 	for k := 1; k <= 3; k++ {
-		for _, perm := range badPerms(1 << k) {
+		for _, perm := range probe.BadPerms(1 << k) {
 			refusedPerm(t, k, perm, api.ErrForm)
 		}
 	}
@@ -151,7 +128,7 @@ func TestRoutingsRefused(t *testing.T) {
 					}
 				}
 				for _, routing := range all {
-					if ok, e := patch.Valid(n, r, m, identity(inputs), routing); ok || e != api.ErrForm {
+					if ok, e := patch.Valid(n, r, m, probe.Identity(inputs), routing); ok || e != api.ErrForm {
 						t.Fatalf("Valid(%d, %d, %d, identity, %v) = %t, %d", n, r, m, routing, ok, e)
 					}
 				}
@@ -190,14 +167,14 @@ func TestRequestsRefused(t *testing.T) {
 
 func TestPowersRefused(t *testing.T) {
 	for _, k := range probe.Outside(1, 3) {
-		for _, perm := range [][]int{nil, {0}, {0, 1}, {0, 0}, {-1}, identity(8), identity(16)} {
+		for _, perm := range [][]int{nil, {0}, {0, 1}, {0, 0}, {-1}, probe.Identity(8), probe.Identity(16)} {
 			refusedPerm(t, k, perm, api.ErrArg)
 		}
 		for _, s := range []string{"", "0", "x", "000000", strings.Repeat("0", 20), strings.Repeat("0", 56)} {
 			refusedSettings(t, k, s, api.ErrArg)
 		}
 	}
-	if got, e := patch.Ways(3, identity(8)); got != 0 || e != api.ErrArg {
+	if got, e := patch.Ways(3, probe.Identity(8)); got != 0 || e != api.ErrArg {
 		t.Errorf("Ways(3, identity) = %d, %d", got, e)
 	}
 	for _, k := range probe.Outside(1, 20) {
@@ -341,7 +318,7 @@ func ofPerms() map[string]func(perm []int) []int {
 // arguments have the same result, whatever their capacity.
 func TestArgumentsAndResults(t *testing.T) {
 	for name, call := range ofPerms() {
-		for perm := range perms(4) {
+		for perm := range probe.Perms(4) {
 			if wrong := probe.Memory(perm, 2, call); wrong != "" {
 				t.Errorf("%s(%v) %s", name, perm, wrong)
 			}
@@ -374,7 +351,7 @@ func TestCallsDoNotMatterToEachOther(t *testing.T) {
 	for name, call := range ofPerms() {
 		want[name] = call([]int{2, 0, 1, 3})
 	}
-	for perm := range perms(4) {
+	for perm := range probe.Perms(4) {
 		for name, call := range ofPerms() {
 			call(perm)
 			call([]int{1, 1, 1, 1})

@@ -32,6 +32,55 @@ func Lists(size, low, high int) iter.Seq[[]int] {
 	}
 }
 
+// Perms yields all permutations of the numbers below size in lexicographic order.
+func Perms(size int) iter.Seq[[]int] {
+	var extend func(begin []int, yield func([]int) bool) bool
+	extend = func(begin []int, yield func([]int) bool) bool {
+		if len(begin) == size {
+			return yield(slices.Clone(begin))
+		}
+		for x := range size {
+			if !slices.Contains(begin, x) && !extend(append(begin, x), yield) {
+				return false
+			}
+		}
+		return true
+	}
+	return func(yield func([]int) bool) { extend(nil, yield) }
+}
+
+// Identity returns the first one of these permutations.
+func Identity(size int) []int {
+	perm := make([]int, size)
+	for i := range perm {
+		perm[i] = i
+	}
+	return perm
+}
+
+// BadPerms returns slices that are no permutations of size numbers.
+func BadPerms(size int) [][]int {
+	all := [][]int{Identity(size + 1), Identity(size)[1:], append(Identity(size), 0), Identity(5000)}
+	if size > 1 {
+		all = append(all, nil, []int{0}, slices.Repeat([]int{0}, size), slices.Repeat([]int{size - 1}, size))
+	}
+	for at := range size {
+		for _, x := range Outside(0, size-1) {
+			perm := Identity(size)
+			perm[at] = x
+			all = append(all, perm)
+		}
+		for other := range size {
+			if other != at {
+				perm := Identity(size)
+				perm[at] = other
+				all = append(all, perm)
+			}
+		}
+	}
+	return all
+}
+
 // spoiled is a number that no layer returns.
 const spoiled = -987654321
 

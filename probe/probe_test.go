@@ -35,6 +35,41 @@ func TestLists(t *testing.T) {
 	t.Error("Lists ends too early")
 }
 
+func TestPerms(t *testing.T) {
+	all := slices.Collect(probe.Perms(3))
+	want := [][]int{{0, 1, 2}, {0, 2, 1}, {1, 0, 2}, {1, 2, 0}, {2, 0, 1}, {2, 1, 0}}
+	if !slices.EqualFunc(all, want, slices.Equal) {
+		t.Errorf("Perms(3) = %v", all)
+	}
+	if got := probe.Identity(3); !slices.Equal(got, want[0]) {
+		t.Errorf("Identity(3) = %v", got)
+	}
+	for perm := range probe.Perms(3) {
+		if perm[0] == 1 {
+			return
+		}
+	}
+	t.Error("Perms ends too early")
+}
+
+func TestBadPerms(t *testing.T) {
+	for size := 1; size <= 4; size++ {
+		bad := probe.BadPerms(size)
+		for perm := range probe.Perms(size) {
+			for _, other := range bad {
+				if slices.Equal(perm, other) {
+					t.Errorf("BadPerms(%d) has %v", size, perm)
+				}
+			}
+		}
+		short := func(list []int) bool { return len(list) < size }
+		same := func(list []int) bool { return len(list) == size && size > 1 && list[0] == list[1] }
+		if !slices.ContainsFunc(bad, short) || slices.ContainsFunc(bad, same) != (size > 1) {
+			t.Errorf("BadPerms(%d) = %v leaves out a kind", size, bad)
+		}
+	}
+}
+
 func TestMemory(t *testing.T) {
 	var kept []int
 	calls := map[string]func(list []int) []int{
